@@ -8,6 +8,7 @@ import (
 	"cistern/api"
 	"cistern/cache"
 	"cistern/disk"
+	"cistern/field"
 	"cistern/journal"
 )
 
@@ -631,6 +632,169 @@ func checkTurn(t *testing.T, w *world, image []byte, blocks ...int) {
 	for _, first := range blocks {
 		for at := first; at < first+2; at++ {
 			checkRead(t, j, at, blockOf(want, at), api.OK)
+		}
+	}
+}
+
+// aged gives an image in which the journal's head bears one life, and each block that was written to its log another.
+func (w *world) aged(image []byte, headLife int, logLife int) []byte {
+	w.t.Helper()
+	out := bytes.Clone(image)
+	life := headLife
+	for at := w.from; at < w.from+w.blocks; at++ {
+		kind, old, body, e := field.Unstamp(blockOf(out, at))
+		if e != api.OK {
+			w.t.Fatalf("block %d is not stamped: %d", at, e)
+		}
+		if old > 0 {
+			block, _ := field.Stamp(kind, life, body)
+			copy(blockOf(out, at), block)
+		}
+		life = logLife
+	}
+	return out
+}
+
+// cutsAtTheEnd goes through a script at every fuse, from an image whose journal comes to its last life.
+func (w *world) cutsAtTheEnd(image []byte, steps []step) {
+	w.t.Helper()
+	w.cutsWithinOpen(image, 0)
+	for fuse := 0; ; fuse++ {
+		x, _ := w.after(image, -1)
+		x.d.Fuse(fuse)
+		if play(x, steps) {
+			return
+		}
+		for i, keep := range x.choices(choices) {
+			cut := x.image(keep)
+			y, _ := x.after(cut, -1)
+			play(y, []step{brings(31), brings(32, 1, 20), brings(33)})
+			y.check()
+			y.after(y.image(nil), -1)
+			if i%20 == fuse%20 {
+				x.cutsWithinOpen(cut, 0)
+			}
+		}
+	}
+}
+
+func TestP4_9CutsWhereTheLivesEnd(t *testing.T) {
+	settles := []step{brings(21), brings(22, 1, 20), (*world).checkpoint, brings(23), (*world).reopen, brings(24, 30)}
+	fills := []step{brings(21, 20, 21, 22, 23), brings(22, 22, 23, 24, 25), brings(23, 0, 1, 2, 3), brings(24, 24, 25, 0, 1)}
+	for _, x := range []struct {
+		left  int
+		steps []step
+	}{{0, settles}, {1, settles}, {2, settles}, {1, fills}} {
+		w := begin(t, noise(40*512, 9), 4, 16)
+		play(w, []step{brings(1, 1, 20), brings(2, 20, 39, 20), brings(3), brings(4), brings(5, 30), (*world).flush})
+		// The transactions stand in the log.
+		w.cutsAtTheEnd(w.aged(w.image(nil), api.MaxSeq-x.left, api.MaxSeq-x.left), x.steps)
+		// They are home, and what is left in the log is as old as what comes behind the last life.
+		w.checkpoint()
+		w.cutsAtTheEnd(w.aged(w.image(nil), api.MaxSeq-x.left, 1), x.steps)
+	}
+}
+
+// shuffled gives an image whose stamped journal blocks bear other numbers, stand at other places, or tell of more
+// transactions, as chance has it.
+func (w *world) shuffled(image []byte, chance []byte) []byte {
+	w.t.Helper()
+	out := bytes.Clone(image)
+	for ; len(chance) >= 3; chance = chance[3:] {
+		at, from := w.from+int(chance[0])%6, w.from+int(chance[1])%w.blocks
+		kind, life, body, e := field.Unstamp(blockOf(out, at))
+		if e != api.OK {
+			w.t.Fatalf("block %d is not stamped: %d", at, e)
+		}
+		lives := []int{0, 1, 2, 3, api.MaxSeq - 2, api.MaxSeq - 1, api.MaxSeq, life + 1, life - 1}
+		switch c := int(chance[2]); {
+		case c%4 == 0 && at != w.from:
+			copy(blockOf(out, at), blockOf(image, from))
+			continue
+		case c%8 == 1 && at == w.from:
+			body, _ = field.Pack(api.Field{Width: 3, Value: w.from}, api.Field{Width: 3, Value: w.blocks}, api.Field{Width: 8, Value: api.MaxSeq - c%5})
+		default:
+			life = min(max(lives[c%len(lives)], 0), api.MaxSeq)
+		}
+		block, _ := field.Stamp(kind, life, body)
+		copy(blockOf(out, at), block)
+	}
+	return out
+}
+
+// No call leaves such disks. But what Open takes for a journal is one: it finds the same again, behind a cut within
+// Open too, and takes what comes.
+func TestP4_3WhatOpenTakesForAJournalIsOne(t *testing.T) {
+	taken := 0
+	for seed := range uint32(700) {
+		w := begin(t, noise(40*512, 9), 4, 16)
+		play(w, []step{brings(1, 1, 20), brings(2), (*world).checkpoint, brings(3, 20, 39), brings(4), brings(5, 30), (*world).flush})
+		image := w.shuffled(w.image(nil), noise(int(3+seed%9), seed))
+		c := newCache(t, openDisk(t, image), 8)
+		j, e := journal.Open(c, 4, 16)
+		if e == api.ErrJournalNone && j == nil {
+			continue
+		}
+		if e != api.OK {
+			t.Fatalf("seed %d: Open = %d", seed, e)
+		}
+		taken++
+		seq, home := tells(t, j)
+		for fuse := range 12 {
+			d := openDisk(t, image)
+			d.Fuse(fuse)
+			journal.Open(newCache(t, d, 8), 4, 16)
+			again, same := tells(t, openJournal(t, newCache(t, openDisk(t, lastingOf(t, d)), 8), 4, 16))
+			if again != seq || !bytes.Equal(same, home) {
+				t.Fatalf("seed %d: behind a cut within Open at %d there are %d transactions, or other bytes; want %d", seed, fuse, again, seq)
+			}
+		}
+		checkTakesMore(t, c, seq, home)
+	}
+	if taken < 150 {
+		t.Errorf("Open takes %d of the images alone", taken)
+	}
+}
+
+// tells gives all that a journal tells: how many transactions it has, and what the home blocks hold.
+func tells(t *testing.T, j *journal.Journal) (int, []byte) {
+	t.Helper()
+	n, e := j.Seq()
+	if e != api.OK || n < 0 || n > api.MaxSeq {
+		t.Fatalf("Seq() = %d, %d", n, e)
+	}
+	var home []byte
+	for at := range 40 {
+		data, _ := j.Read(at)
+		home = append(home, data...)
+	}
+	return n, home
+}
+
+// checkTakesMore brings transactions to a journal, each in a life of its own.
+func checkTakesMore(t *testing.T, c *cache.Cache, seq int, home []byte) {
+	t.Helper()
+	for i := range 5 {
+		j := openJournal(t, c, 4, 16)
+		want := api.OK
+		if seq == api.MaxSeq {
+			want = api.ErrJournalSeq
+		}
+		data := noise(512, uint32(i))
+		checkAppend(t, j, []api.Put{{At: 0, Data: data}}, want)
+		if want == api.OK {
+			seq++
+			copy(home, data)
+		}
+		if i%2 == 0 {
+			checkCheckpoint(t, j, api.OK)
+		}
+		checkFlush(t, j, api.OK)
+		for range 2 {
+			again, same := tells(t, openJournal(t, newCache(t, openDisk(t, lastingOf(t, c.Disk)), 8), 4, 16))
+			if again != seq || !bytes.Equal(same, home) {
+				t.Fatalf("behind %d more there are %d transactions, or other bytes; want %d", i+1, again, seq)
+			}
 		}
 	}
 }

@@ -15,8 +15,18 @@ const (
 	kindLast  = 4
 )
 
-// noLife is what blanks bear: the log's lives begin behind it.
-const noLife = 0
+// The log's lives go from the one behind noLife to lastLife, the greatest number of a stamped block, and then begin again.
+// noLife is what blanks bear, and a head without a log.
+const (
+	noLife   = 0
+	lastLife = api.MaxSeq
+)
+
+// Where a stamped block bears its number.
+const (
+	lifeFrom = 3
+	lifeTo   = 11
+)
 
 // The widths of the numbers in records, and the bytes of a put.
 const (
@@ -171,7 +181,7 @@ func (j *Journal) findLog() api.Errno {
 		if e != api.OK {
 			return e
 		}
-		if life != j.life {
+		if life != j.life || life == noLife {
 			return api.OK
 		}
 		switch r := r.(type) {
@@ -202,26 +212,39 @@ func (j *Journal) findNoOther() api.Errno {
 		if e != api.OK {
 			return e
 		}
-		if !bytes.Equal(block, own) && saysWhose(block) {
+		if !bytes.Equal(block, own) && j.isForeign(block) {
 			return api.ErrJournalNone
 		}
 	}
 	return api.OK
 }
 
-// saysWhose tells whether a block names a journal. It asks the kind, which stands first, ahead of the sum:
-// that takes long, and a great journal has many blocks of lives that are over.
-func saysWhose(block []byte) bool {
-	if kind := int(block[0]); kind != kindHead && kind != kindBlank {
+// isForeign tells whether a block is none that this journal can have written. It asks what stands at the
+// block's beginning ahead of the sum: that takes long, and a great journal has many blocks of lives that are over.
+func (j *Journal) isForeign(block []byte) bool {
+	if !saysWhose(block) && !j.isToCome(block) {
 		return false
 	}
 	_, _, _, e := field.Unstamp(block)
 	return e == api.OK
 }
 
+func saysWhose(block []byte) bool {
+	kind := int(block[0])
+	return kind == kindHead || kind == kindBlank
+}
+
+// isToCome tells whether a block bears a life that the journal has not begun: when it does, that block would be
+// taken for the log's. Who has no life wipes the log ahead of the first one.
+func (j *Journal) isToCome(block []byte) bool {
+	life, e := field.Unpack(block[lifeFrom:lifeTo], lifeTo-lifeFrom)
+	return e == api.OK && j.life != noLife && life[0] > j.life
+}
+
 // takeFound answers false where the bytes are no transaction of this journal.
 func (j *Journal) takeFound(data []byte) bool {
 	puts, ok := putsOf(data)
+	ok = ok && j.takesMore()
 	for _, p := range puts {
 		ok = ok && j.checkPut(p) == api.OK
 	}

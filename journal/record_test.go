@@ -155,12 +155,93 @@ func TestP4_3OpenTellsAnotherJournalsBlocks(t *testing.T) {
 	checkFound(t, c, 10)
 }
 
-// So many lives are out of reach; but a head can be made that bears the last one.
-func TestP4_3OpenOfTheLastLife(t *testing.T) {
-	c := handmade(t, api.MaxSeq, 10)
-	if j, e := Open(c, 4, 16); j != nil || e != api.ErrFieldSeq {
-		t.Errorf("Open of the last life = a journal: %v, %d", j != nil, e)
+// A log can be made that goes on where no number is left: no call brings such a transaction, so it is not found.
+func TestP4_3OpenFindsNoMoreThanMaxSeqTransactions(t *testing.T) {
+	one := recordsOf([]api.Put{{At: 1, Data: oneByte('A')}})
+	two := recordsOf([]api.Put{{At: 1, Data: oneByte('B')}, {At: 20, Data: oneByte('B')}})
+	for _, x := range []struct {
+		ahead int
+		seq   int
+		name  byte
+	}{
+		{api.MaxSeq - 2, 1099511627776, 'B'},
+		{api.MaxSeq - 1, 1099511627776, 'A'},
+		{api.MaxSeq, 1099511627776, 0},
+	} {
+		c := handmade(t, 7, x.ahead, append(append([]record{}, one...), two...)...)
+		for range 3 {
+			j := checkFound(t, c, x.seq)
+			if got, e := j.Read(1); e != api.OK || !bytes.Equal(got, oneByte(x.name)) {
+				t.Errorf("%d ahead of the log: Read(1) = %d bytes, %d, others than wanted", x.ahead, len(got), e)
+			}
+			checkAnswer(t, "Append", j.Append(nil), api.ErrJournalSeq)
+			checkAnswer(t, "Checkpoint", j.Checkpoint(), api.OK)
+		}
 	}
+}
+
+// So many lives are out of reach; but a head can be made that bears one of the last: it is a journal as any other.
+func TestP4_3OpenOfTheLastLives(t *testing.T) {
+	log := recordsOf([]api.Put{{At: 1, Data: oneByte('A')}})
+	for _, life := range []int{1, api.MaxSeq / 2, api.MaxSeq - 3, api.MaxSeq - 2, api.MaxSeq - 1, api.MaxSeq} {
+		c := handmade(t, life, 10, log...)
+		for n := range 6 {
+			j := checkFound(t, c, 11+n)
+			for range n {
+				checkAnswer(t, "Checkpoint", j.Checkpoint(), api.OK)
+			}
+			if got, e := j.Read(1); e != api.OK || !bytes.Equal(got, oneByte(byte('A'+n))) {
+				t.Errorf("life %d: Read(1) = %d bytes, %d, others than wanted", life, len(got), e)
+			}
+			checkAnswer(t, "Append", j.Append([]api.Put{{At: 1, Data: oneByte(byte('B' + n))}}), api.OK)
+			checkAnswer(t, "Flush", j.Flush(), api.OK)
+		}
+	}
+}
+
+// A head without a life is one behind which the log is being wiped: what stands in it is not asked.
+func TestP4_3OpenOfAHeadWithoutALife(t *testing.T) {
+	log := recordsOf([]api.Put{{At: 1, Data: oneByte('A')}})
+	for _, life := range []int{noLife, noLife + 1, lastLife} {
+		c := handmade(t, life, 10, log...)
+		j := &Journal{Cache: c, place: place{from: 4, blocks: 16}, seq: 10}
+		checkAnswer(t, "endLives", j.endLives(), api.OK)
+		for range 3 {
+			j := checkFound(t, c, 10)
+			if got, e := j.Read(1); e != api.OK || !bytes.Equal(got, oneByte(0)) {
+				t.Errorf("life %d: Read(1) = %d bytes, %d", life, len(got), e)
+			}
+		}
+	}
+}
+
+// Lives begin in their order: where a block bears one that is still to come, no call has left the log.
+func TestP4_3OpenOfLivesToCome(t *testing.T) {
+	log := recordsOf([]api.Put{{At: 1, Data: oneByte('A')}})
+	for _, x := range []struct {
+		life int
+		want api.Errno
+	}{{1, api.OK}, {2, api.OK}, {3, api.OK}, {4, api.ErrJournalNone}, {5, api.ErrJournalNone}, {lastLife, api.ErrJournalNone}} {
+		for first := range 12 {
+			c := handmade(t, 3, 10)
+			j := &Journal{Cache: c, place: place{from: 4, blocks: 16}, life: x.life}
+			for i, r := range log {
+				checkAnswer(t, "writeRecord", j.writeRecord(j.logBlock(first+i), r), api.OK)
+			}
+			_, e := Open(c, 4, 16)
+			checkAnswer(t, "Open", e, x.want)
+			if e == api.OK {
+				checkFound(t, c, 10+boolTo(x.life == 3 && first == 0))
+			}
+		}
+	}
+}
+
+func boolTo(holds bool) int {
+	if holds {
+		return 1
+	}
+	return 0
 }
 
 func TestP4_4ALogHoldsTheLargestTransaction(t *testing.T) {
