@@ -35,6 +35,7 @@ const (
 const (
 	headFrom = len(mark) + roomWidth + numberWidth
 	headTo   = headFrom + sizeWidth + lifeWidth
+	unborn   = 0
 	lastLife = 1<<(8*lifeWidth) - 1
 )
 
@@ -44,7 +45,8 @@ type place struct {
 	room int
 }
 
-// head is what a table says of itself. Its life is another one than that of the table that it was laid over.
+// head is what a table says of itself. Its life tells it from the table that it was laid over. It is unborn until a
+// count is changed first: only then is it seen what is committed there, whatever the transaction wrote over it.
 type head struct {
 	size int
 	life int
@@ -99,13 +101,8 @@ func (h head) put(page []byte) {
 	copy(page[headFrom:headTo], packed(api.Field{Width: sizeWidth, Value: h.size}, api.Field{Width: lifeWidth, Value: h.life}))
 }
 
-// lifeBehind gives a life for a table that is laid where this page stands, of a table of whatever room, or anything else.
-func lifeBehind(old []byte) int {
-	if !bytes.HasPrefix(old, []byte(mark)) {
-		return 1
-	}
-	return headOf(old).life%lastLife + 1
-}
+// lifeBehind gives a life for a table that is laid over one of that life.
+func lifeBehind(life int) int { return life%lastLife + 1 }
 
 // takenAt tells how many counts of a group are not 0.
 func takenAt(page []byte, i int) int { return number(page[entryFrom(i):][:takenWidth]) }

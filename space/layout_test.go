@@ -30,22 +30,17 @@ func TestP6_4EntriesOfTheIndex(t *testing.T) {
 	}
 }
 
-// A table that is laid over another has another life, the first one again behind the last.
+// A table that is laid over another has another life, the first one again behind the last; it is never unborn.
 func TestP6_2Lives(t *testing.T) {
 	p := place{room: 10}
-	for _, c := range []struct{ old, want int }{{0, 1}, {1, 2}, {2, 3}, {lastLife - 1, lastLife}, {lastLife, 1}} {
+	for _, c := range []struct{ old, want int }{{unborn, 1}, {1, 2}, {2, 3}, {lastLife - 1, lastLife}, {lastLife, 1}} {
 		page := p.blank(0)
 		head{size: 7, life: c.old}.put(page)
 		if h := headOf(page); h.size != 7 || h.life != c.old || !p.isPage(page, 0) {
 			t.Errorf("the head is %v; want size 7, life %d", h, c.old)
 		}
-		if got := lifeBehind(page); got != c.want {
+		if got := lifeBehind(c.old); got != c.want {
 			t.Errorf("the life behind %d is %d; want %d", c.old, got, c.want)
-		}
-	}
-	for _, block := range [][]byte{nil, make([]byte, api.BlockSize)} {
-		if got := lifeBehind(block); got != 1 {
-			t.Errorf("the life over no table is %d; want 1", got)
 		}
 	}
 }

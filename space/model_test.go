@@ -97,14 +97,25 @@ func TestP6_4NotAllCountsAreRead(t *testing.T) {
 	b := laid(t, journalBlocks+all, 0, journalBlocks)
 	p := b.space(journalBlocks, api.MaxCapacity, api.MaxCapacity-1000)
 	const taken = 200000
-	b.do(func(x *txn.Txn) { checkAllocs(t, p, x, 1, taken) })
-	if e := b.j.Checkpoint(); e != api.OK {
-		t.Fatalf("Checkpoint() = %d", e)
-	}
 	reads := func() int {
 		hits, misses, _ := b.c.Counts()
 		return hits + misses
 	}
+	checkpoint := func() {
+		if e := b.j.Checkpoint(); e != api.OK {
+			t.Fatalf("Checkpoint() = %d", e)
+		}
+	}
+	checkpoint()
+	b.do(func(x *txn.Txn) {
+		before := reads()
+		checkAllocs(t, p, x, 1, 5)
+		if n := reads() - before; n > all {
+			t.Errorf("five times Alloc behind Format reads %d blocks of a table of %d", n, all)
+		}
+		checkAllocs(t, p, x, 6, taken)
+	})
+	checkpoint()
 	x := b.begin()
 	checkGrow(t, p, x, api.MaxCapacity, api.OK)
 	for what, call := range map[string]func(){

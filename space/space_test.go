@@ -546,6 +546,97 @@ func TestP6_2FormatOverATableThatIsGoneInPart(t *testing.T) {
 	checkAllocs(t, p, x, 1, 900)
 }
 
+// overwritings are what a transaction may write over a table's blocks ahead of Format. That first is a block of the
+// table as it was in an earlier life.
+func overwritings(first []byte, pages int) []func(x *txn.Txn) {
+	writes := []func(x *txn.Txn){
+		func(*txn.Txn) {},
+		func(x *txn.Txn) { x.Write(home, first) },
+	}
+	for _, name := range []byte{0, 255} {
+		writes = append(writes,
+			func(x *txn.Txn) { x.Write(home, full(name)) },
+			func(x *txn.Txn) { x.Write(home+pages-1, full(name)) },
+			func(x *txn.Txn) {
+				for i := range pages {
+					x.Write(home+i, full(name))
+				}
+			})
+	}
+	return writes
+}
+
+// A table that had all its pool blocks taken, and of which one block is gone, stands there no more, whatever the
+// transaction itself writes over it ahead of Format. Where none is gone, it is still the old one's counts that hold.
+func TestP6_8FreeOfATableThatIsLaidOverAPart(t *testing.T) {
+	const room = 1000
+	pages := blocksOf(t, room)
+	for gone := range pages + 1 {
+		for lives := range 3 {
+			b := made(t, 200)
+			p := b.space(home, room, room)
+			first, _ := b.s.Read(home)
+			for range lives {
+				b.do(func(x *txn.Txn) { checkAlloc(t, p, x, 1, api.OK) })
+				first, _ = b.s.Read(home)
+				b.space(home, room, room)
+			}
+			b.do(func(x *txn.Txn) { checkAllocs(t, p, x, 1, room) })
+			want := 0
+			if gone < pages {
+				b.do(func(x *txn.Txn) { x.Write(home+gone, full(255)) })
+				want = room
+			}
+			for _, write := range overwritings(first, pages) {
+				x := b.begin()
+				write(x)
+				checkFormat(t, x, home, room, room-1, api.OK)
+				checkFree(t, p, x, max(want-1, 0))
+				checkGrow(t, p, x, room, api.OK)
+				checkFree(t, p, x, want)
+				if want > 0 {
+					checkAllocs(t, p, x, 1, 3)
+					checkFree(t, p, x, want-3)
+					checkAllocs(t, p, x, 4, want)
+				}
+				checkAlloc(t, p, x, 0, api.ErrSpaceFull)
+				abort(t, x)
+			}
+		}
+	}
+}
+
+// The same where the index takes more than one block, and the first change is not in the first of them.
+func TestP6_8FreeOfALargeTableThatIsLaidOverAPart(t *testing.T) {
+	const room, taken, letGo = 60000, 29000, 500
+	pages := blocksOf(t, room)
+	for _, gone := range []int{1, pages - 1, pages} {
+		b := laid(t, 800, 400, 400)
+		p := b.space(home, room, room)
+		b.do(func(x *txn.Txn) { checkAllocs(t, p, x, 1, taken) })
+		b.do(func(x *txn.Txn) {
+			for n := 1; n <= letGo; n++ {
+				checkUnref(t, p, x, n, 0, api.OK)
+			}
+		})
+		first := 1
+		if gone < pages {
+			b.do(func(x *txn.Txn) { x.Write(home+gone, full(255)) })
+		} else {
+			b.do(func(x *txn.Txn) { checkAllocs(t, p, x, 1, letGo) })
+			first = taken + 1
+		}
+		x := b.begin()
+		x.Write(home, full(255))
+		checkFormat(t, x, home, room, room, api.OK)
+		checkFree(t, p, x, room-first+1)
+		checkAllocs(t, p, x, first, first+9)
+		checkFree(t, p, x, room-first-9)
+		commit(t, x)
+		b.do(func(x *txn.Txn) { checkFree(t, p, x, room-10) })
+	}
+}
+
 func TestP6_3Open(t *testing.T) {
 	for _, room := range []int{math.MinInt, -1, 0, 1, 10, 262144, 262145, math.MaxInt} {
 		if p, e := space.Open(nil, -1, room); p != nil || e != api.ErrNil {

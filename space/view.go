@@ -68,15 +68,18 @@ func (p place) page(of table, number int) ([]byte, api.Errno) {
 
 func (v view) has(b int) bool { return b >= 1 && b <= v.size }
 
-// begun gives the table that the transaction began with. Where it is the one that is seen, each page of it that is
-// asked was a page then. Where the transaction has laid its table over it, it can be that some of it was gone before:
-// then there was none.
+// begun gives the table that the transaction began with. One that is unborn has no references and is as good as none.
+// Where it is the one that is seen, each page of it that is asked was a page then. Where the transaction has laid its
+// table over it, it can be that some of it was gone before: then there was none.
 func (v view) begun() (committed, api.Errno) {
 	block, e := v.store.Read(v.from)
 	if e != api.OK || !v.isPage(block, 0) {
 		return committed{Store: v.store}, e
 	}
-	if headOf(block).life == v.life {
+	switch headOf(block).life {
+	case unborn:
+		return committed{Store: v.store}, api.OK
+	case v.life:
 		return committed{Store: v.store, stands: true}, api.OK
 	}
 	whole, e := v.isWhole()
@@ -136,14 +139,29 @@ func (v view) turn(group int, more int) api.Errno {
 	if !putEntry(page, i, takenAt(page, i)+more, turns) {
 		return api.ErrSpaceForm
 	}
-	return v.now.Write(v.from+number, page)
+	if e := v.now.Write(v.from+number, page); e != api.OK || v.life != unborn {
+		return e
+	}
+	return v.bear()
 }
 
-func (v view) resize(size int) api.Errno {
+// bear gives the table a life: another one than the table has that is committed.
+func (v view) bear() api.Errno {
+	old, e := v.page(committed{Store: v.store, stands: true}, 0)
+	if e != api.OK {
+		return e
+	}
+	return v.say(head{size: v.size, life: lifeBehind(headOf(old).life)})
+}
+
+func (v view) resize(size int) api.Errno { return v.say(head{size: size, life: v.life}) }
+
+// say changes the table's head.
+func (v view) say(h head) api.Errno {
 	page, e := v.page(v.now, 0)
 	if e != api.OK {
 		return e
 	}
-	head{size: size, life: v.life}.put(page)
+	h.put(page)
 	return v.now.Write(v.from, page)
 }
