@@ -1,0 +1,214 @@
+package radix_test
+
+import (
+	"slices"
+	"testing"
+
+	"cistern/api"
+)
+
+func TestP7_10Pairs(t *testing.T) {
+	b := made(t, 400)
+	mapped := seams()
+	// The order in which they are mapped is another than the one in which they are told.
+	order := slices.Clone(mapped)
+	slices.Reverse(order)
+	r, _ := b.assign(0, order...)
+	b.commit()
+	ends := append([]int{2, 61, 100, 5000, 200000, all}, mapped...)
+	slices.Sort(ends)
+	for i, from := range ends {
+		for _, to := range ends[i:] {
+			var want []api.Pair
+			for _, l := range mapped {
+				if l >= from && l < to {
+					want = append(want, api.Pair{Logical: l, Block: b.find(r, l)})
+				}
+			}
+			if got := b.pairs(r, from, to); !slices.Equal(got, want) {
+				t.Errorf("Pairs(t, r, %d, %d) = %v; want %v", from, to, got, want)
+			}
+			if got := b.pairs(0, from, to); len(got) != 0 {
+				t.Errorf("Pairs(t, 0, %d, %d) = %v; want none", from, to, got)
+			}
+		}
+	}
+}
+
+// checkWalk holds a walk against the levels, references and owners that are wanted, and against what is counted.
+func (b *bench) checkWalk(root int, want ...api.Tile) {
+	b.t.Helper()
+	ts := b.walk(root)
+	for i, tile := range ts {
+		if n := b.count(tile.Block); n != tile.Refs {
+			b.t.Errorf("Walk tells %v; block %d has %d references", tile, tile.Block, n)
+		}
+		if tile.Level == 0 && tile.Block != root {
+			b.t.Errorf("Walk of root %d begins with %v", root, tile)
+		}
+		ts[i].Block = 0
+	}
+	if !slices.Equal(ts, want) {
+		b.t.Errorf("Walk(t, %d) = %v; want %v", root, ts, want)
+	}
+}
+
+// tile gives what is wanted of a tile: what block it is, is looked at elsewhere.
+func tile(level int, refs int, own bool) api.Tile {
+	return api.Tile{Level: level, Refs: refs, Own: own}
+}
+
+func TestP7_11Walk(t *testing.T) {
+	b := made(t, 400)
+	b.checkWalk(0)
+	r, _ := b.assign(0, 4096, 64, 1, 0)
+	b.checkWalk(r,
+		tile(0, 1, true), tile(1, 1, true), tile(2, 1, true), tile(3, 1, true), tile(3, 1, true), tile(2, 1, true), tile(3, 1, true),
+		tile(1, 1, true), tile(2, 1, true), tile(3, 1, true))
+	// The data blocks are told in the order of the logical ones.
+	var data []int
+	for _, tile := range b.walk(r) {
+		if tile.Level == 3 {
+			data = append(data, tile.Block)
+		}
+	}
+	if want := []int{b.find(r, 0), b.find(r, 1), b.find(r, 64), b.find(r, 4096)}; !slices.Equal(data, want) {
+		t.Errorf("Walk tells the data blocks %v; want %v", data, want)
+	}
+	// The root is shared, and so all below it, that has one reference.
+	b.share(r)
+	b.checkWalk(r,
+		tile(0, 2, false), tile(1, 1, false), tile(2, 1, false), tile(3, 1, false), tile(3, 1, false), tile(2, 1, false), tile(3, 1, false),
+		tile(1, 1, false), tile(2, 1, false), tile(3, 1, false))
+	// A node of level 1 is shared.
+	q, _ := b.assign(r, 4096)
+	for _, root := range []int{r, q} {
+		b.checkWalk(root,
+			tile(0, 1, true), tile(1, 2, false), tile(2, 1, false), tile(3, 1, false), tile(3, 1, false), tile(2, 1, false), tile(3, 1, false),
+			tile(1, 1, true), tile(2, 1, true), tile(3, 1, true))
+	}
+	// A node of level 2 is shared.
+	q, _ = b.assign(q, 64)
+	for _, root := range []int{r, q} {
+		b.checkWalk(root,
+			tile(0, 1, true), tile(1, 1, true), tile(2, 2, false), tile(3, 1, false), tile(3, 1, false), tile(2, 1, true), tile(3, 1, true),
+			tile(1, 1, true), tile(2, 1, true), tile(3, 1, true))
+	}
+	// A data block is.
+	q, _ = b.assign(q, 1)
+	for _, root := range []int{r, q} {
+		b.checkWalk(root,
+			tile(0, 1, true), tile(1, 1, true), tile(2, 1, true), tile(3, 2, false), tile(3, 1, true), tile(2, 1, true), tile(3, 1, true),
+			tile(1, 1, true), tile(2, 1, true), tile(3, 1, true))
+	}
+}
+
+// A map is walked by its nodes: of a map of few nodes few blocks are read, whatever the range is.
+func TestP7_10FewBlocksAreRead(t *testing.T) {
+	b := made(t, 2000)
+	root := 0
+	for l := range 64 {
+		root, _ = b.assign(root, l, 4096+l, 200000+l)
+	}
+	b.share(root)
+	b.commit()
+	b.checkpoint()
+	for _, c := range []struct {
+		name string
+		most int
+		call func()
+	}{
+		{"Find", 20, func() { b.m.Find(b.x, root, 4100) }},
+		{"Need", 30, func() { b.m.Need(b.x, root, 4100) }},
+		{"NeedAll", 60, func() { b.m.NeedAll(b.x, root, 0, all) }},
+		{"NeedDrop", 40, func() { b.m.NeedDrop(b.x, root, 5, 200005) }},
+		{"Pairs", 30, func() { b.m.Pairs(b.x, root, 0, all) }},
+		{"Share", 20, func() { b.m.Share(b.x, root) }},
+		{"Release", 30, func() { b.m.Release(b.x, root) }},
+	} {
+		before := b.reads()
+		c.call()
+		if n := b.reads() - before; n > c.most {
+			t.Errorf("%s reads %d blocks of a map of 7 nodes; want %d at most", c.name, n, c.most)
+		}
+		b.abort()
+	}
+}
+
+// What lies in a range as a whole is not looked at where it is asked what a drop needs, nor where it is shared and goes.
+func TestP7_6WhatGoesWholeIsNotRead(t *testing.T) {
+	b := made(t, 2000)
+	root := 0
+	for i := range 64 {
+		root, _ = b.assign(root, i*4096, i*4096+64, i*4096+128)
+		b.commit()
+	}
+	b.share(root)
+	b.commit()
+	b.checkpoint()
+	before := b.reads()
+	b.checkNeedDrop(root, 1, 63*4096+1, 3)
+	if n := b.reads() - before; n > 40 {
+		t.Errorf("NeedDrop reads %d blocks of a map of 257 nodes", n)
+	}
+	before = b.reads()
+	b.drop(root, 0, all)
+	if n := b.reads() - before; n > 40 {
+		t.Errorf("Drop of all of a shared map reads %d blocks", n)
+	}
+}
+
+// As many blocks are written as have to be: Drop of nearly all writes the nodes at both ends alone.
+func TestP7_7FewNodesAreWritten(t *testing.T) {
+	b := made(t, 2000)
+	root := 0
+	for i := range 12 {
+		root, _ = b.assign(root, i*4096, i*4096+1, i*4096+70)
+	}
+	b.commit()
+	before := b.seen()
+	b.drop(root, 1, 11*4096+1)
+	changed := 0
+	for i, block := range b.seen() {
+		if i >= b.base-journalBlocks && !slices.Equal(block, before[i]) {
+			changed++
+		}
+	}
+	if changed > 5 {
+		t.Errorf("Drop of a range has changed %d nodes; want 5 at most", changed)
+	}
+}
+
+// What is told writes nothing, in the transaction neither.
+func TestR5WhatTellsWritesNothing(t *testing.T) {
+	b := made(t, 100)
+	r, _ := b.assign(0, 5, 70)
+	b.share(r)
+	b.commit()
+	seq := b.seq()
+	b.checkFind(r, 5, b.find(r, 5))
+	b.checkNeed(r, 6, 4)
+	b.checkNeedAll(r, 0, 64, 66)
+	b.checkNeedDrop(r, 5, 6, 2)
+	b.pairs(r, 0, all)
+	b.walk(r)
+	b.commit()
+	if b.seq() != seq {
+		t.Errorf("what tells something has written something")
+	}
+}
+
+// What is handed out is new: whoever writes into it changes nothing else.
+func TestR4WhatIsHandedOutIsNew(t *testing.T) {
+	b := made(t, 100)
+	r, _ := b.assign(0, 5, 70)
+	for range 2 {
+		ps, ts := b.pairs(r, 0, all), b.walk(r)
+		again, over := b.pairs(r, 0, all), b.walk(r)
+		clear(ps[:cap(ps)])
+		clear(ts[:cap(ts)])
+		if len(again) != 2 || again[0].Logical != 5 || again[1].Logical != 70 || len(over) != 6 || over[0].Block != r {
+			t.Errorf("what was handed out is changed by writing into another answer: %v, %v", again, over)
+		}
+	}
+}
