@@ -19,11 +19,8 @@ func (w walk) assign(l int) (int, int, api.Errno) {
 	if c == nil {
 		return w.asItIs(l)
 	}
-	// A need of 1 is the data block's alone: no node is copied, and Alloc refuses it ahead of all that is done.
-	if c.need() > 1 {
-		if e := w.check(c); e != api.OK {
-			return 0, 0, e
-		}
+	if e := w.check(c); e != api.OK {
+		return 0, 0, e
 	}
 	return w.do(c)
 }
@@ -72,20 +69,23 @@ func (w walk) do(c change) (int, int, api.Errno) {
 	return root, d.data, api.OK
 }
 
-// check tells what a change is refused for.
+// check tells what a change is refused for. All of it is asked ahead of the first write: what is written in a
+// transaction is there, be it as it was or not.
 func (w walk) check(c change) api.Errno {
-	need := c.need()
-	if need == 0 {
-		return api.OK
-	}
-	free, e := w.Free(w.t)
+	ahead, e := w.Lowest(w.t, c.need())
 	if e != api.OK {
 		return e
 	}
-	if need > free {
-		return api.ErrSpaceFull
+	if e := w.checkRefs(c); e != api.OK {
+		return e
 	}
-	return w.checkRefs(c)
+	// The base can lead to blocks that the store does not have.
+	for _, block := range ahead {
+		if _, e := w.t.Read(w.place(block)); e != api.OK {
+			return e
+		}
+	}
+	return api.OK
 }
 
 // checkRefs tells whether all that a copy names as well can have a reference more.
@@ -110,27 +110,16 @@ func (w walk) checkRefs(c change) api.Errno {
 	return api.OK
 }
 
-// takeAll takes the new pool blocks ahead of all else: where the store has not one of them, they are given back, and
-// nothing is done.
+// takeAll takes the new pool blocks, ahead of all else: so those of which check asked.
 func (d *deed) takeAll(need int) api.Errno {
 	for range need {
 		block, e := d.Alloc(d.t)
-		if e == api.OK {
-			d.taken = append(d.taken, block)
-			_, e = d.t.Read(d.place(block))
-		}
 		if e != api.OK {
-			d.giveBack()
 			return e
 		}
+		d.taken = append(d.taken, block)
 	}
 	return api.OK
-}
-
-func (d *deed) giveBack() {
-	for _, block := range d.taken {
-		d.Unref(d.t, block)
-	}
 }
 
 // take gives a new pool block.

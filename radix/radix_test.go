@@ -320,6 +320,15 @@ func (b *bench) checkFree(want int) {
 	}
 }
 
+func (b *bench) free() int {
+	b.t.Helper()
+	n, e := b.p.Free(b.x)
+	if e != api.OK {
+		b.t.Fatalf("Free(t) = %d, %d", n, e)
+	}
+	return n
+}
+
 func (b *bench) count(block int) int {
 	b.t.Helper()
 	n, e := b.p.Count(b.x, block)
@@ -529,18 +538,12 @@ func TestP7_1ABaseWhereTheStoreHasNoBlocks(t *testing.T) {
 		if e != api.OK {
 			t.Fatalf("New(s, %d) = %d", base, e)
 		}
-		counts := b.counts()
+		before := b.seen()
 		if q, d, e := m.Assign(b.x, 0, 7); q != 0 || d != 0 || e != api.ErrJournalAt {
 			t.Errorf("Assign(t, 0, 7) with a base of %d = %d, %d, %d; want ErrJournalAt", base, q, d, e)
 		}
-		if !slices.Equal(b.counts(), counts) {
-			t.Errorf("a refused Assign with a base of %d has changed counts", base)
-		}
-		b.checkFree(96)
-		for i, tile := range b.walk(r) {
-			if tile.Level != i || !tile.Own {
-				t.Errorf("a refused Assign with a base of %d has changed a map: %v", base, tile)
-			}
+		if !slices.EqualFunc(b.seen(), before, bytes.Equal) {
+			t.Errorf("a refused Assign with a base of %d has changed something", base)
 		}
 		if base < end-5 || base >= end {
 			b.checkRefused(m, b.x, r, 5, 0, all, api.ErrJournalAt)

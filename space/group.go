@@ -70,16 +70,20 @@ func (g group) free() (iter.Seq[int], api.Errno) {
 	}, api.OK
 }
 
-// lowestFree gives the group's first free pool block, 0: it has none.
-func (g group) lowestFree() (int, api.Errno) {
+// lowestFree gives the group's first free pool blocks, as many as are asked for or as there are.
+func (g group) lowestFree(count int) ([]int, api.Errno) {
 	free, e := g.free()
 	if e != api.OK {
-		return 0, e
+		return nil, e
 	}
+	var told []int
 	for b := range free {
-		return b, api.OK
+		told = append(told, b)
+		if len(told) == count {
+			break
+		}
 	}
-	return 0, api.OK
+	return told, api.OK
 }
 
 func (g group) countFree() (int, api.Errno) {
@@ -97,16 +101,22 @@ func (g group) countFree() (int, api.Errno) {
 	return count, api.OK
 }
 
-func (v view) lowestFree() (int, api.Errno) {
+func (v view) lowestFree(count int) ([]int, api.Errno) {
+	var told []int
 	for g, e := range v.groups() {
 		if e != api.OK {
-			return 0, e
+			return nil, e
 		}
-		if b, e := g.lowestFree(); b != 0 || e != api.OK {
-			return b, e
+		more, e := g.lowestFree(count - len(told))
+		if e != api.OK {
+			return nil, e
+		}
+		told = append(told, more...)
+		if len(told) == count {
+			return told, api.OK
 		}
 	}
-	return 0, api.ErrSpaceFull
+	return nil, api.ErrSpaceFull
 }
 
 func (v view) countFree() (int, api.Errno) {

@@ -3,6 +3,7 @@ package space_test
 import (
 	"bytes"
 	"math"
+	"slices"
 	"testing"
 
 	"cistern/api"
@@ -211,6 +212,13 @@ func checkAlloc(t *testing.T, p *space.Space, x *txn.Txn, want int, wantErr api.
 	}
 }
 
+func checkLowest(t *testing.T, p *space.Space, x *txn.Txn, count int, want []int, wantErr api.Errno) {
+	t.Helper()
+	if got, e := p.Lowest(x, count); !slices.Equal(got, want) || e != wantErr {
+		t.Errorf("Lowest(t, %d) = %v, %d; want %v, %d", count, got, e, want, wantErr)
+	}
+}
+
 // checkAllocs takes the pool blocks from first to last, one behind the other.
 func checkAllocs(t *testing.T, p *space.Space, x *txn.Txn, first int, last int) {
 	t.Helper()
@@ -273,6 +281,9 @@ func checkRefused(t *testing.T, p *space.Space, x *txn.Txn, want api.Errno) {
 		checkGrow(t, p, x, b, want)
 	}
 	checkAlloc(t, p, x, 0, want)
+	for _, n := range []int{math.MinInt, -1, 0, 1, 4, 5, math.MaxInt} {
+		checkLowest(t, p, x, n, nil, want)
+	}
 	if n, e := p.Free(x); n != 0 || e != want {
 		t.Errorf("Free(t) = %d, %d; want 0, %d", n, e, want)
 	}
@@ -731,6 +742,44 @@ func TestP6_4AllocOfWhatIsLetGo(t *testing.T) {
 		checkAlloc(t, p, x, 1, api.OK)
 		checkAlloc(t, p, x, 3, api.OK)
 	})
+}
+
+// What Lowest tells is what Alloc gives then, however many are asked for, and telling it writes nothing.
+func TestP6_4LowestTellsWhatAllocGives(t *testing.T) {
+	b := made(t, 200)
+	p := b.space(home, 2000, 1500)
+	b.do(func(x *txn.Txn) { checkAllocs(t, p, x, 1, 1490) })
+	b.do(func(x *txn.Txn) {
+		for _, n := range []int{3, 480, 481, 1000} {
+			checkUnref(t, p, x, n, 0, api.OK)
+		}
+		checkLowest(t, p, x, 3, []int{1491, 1492, 1493}, api.OK)
+	})
+	free := []int{3, 480, 481, 1000, 1491, 1492, 1493, 1494, 1495, 1496, 1497, 1498, 1499, 1500}
+	x := b.begin()
+	before := b.seq()
+	for n := range free {
+		checkLowest(t, p, x, n, free[:n], api.OK)
+	}
+	checkLowest(t, p, x, len(free), free, api.OK)
+	checkLowest(t, p, x, len(free)+1, nil, api.ErrSpaceFull)
+	checkLowest(t, p, x, math.MaxInt, nil, api.ErrSpaceFull)
+	checkLowest(t, p, x, -1, nil, api.OK)
+	commit(t, x)
+	if b.seq() != before {
+		t.Errorf("Lowest has written")
+	}
+	x = b.begin()
+	for i, n := range free {
+		checkLowest(t, p, x, 1, free[i:i+1], api.OK)
+		checkAlloc(t, p, x, n, api.OK)
+	}
+	checkLowest(t, p, x, 0, nil, api.OK)
+	checkLowest(t, p, x, 1, nil, api.ErrSpaceFull)
+	checkUnref(t, p, x, 2, 0, api.OK)
+	checkUnref(t, p, x, 1000, 0, api.OK)
+	checkLowest(t, p, x, 1, []int{1000}, api.OK)
+	checkLowest(t, p, x, 2, nil, api.ErrSpaceFull)
 }
 
 func TestP6_5Ref(t *testing.T) {
