@@ -112,8 +112,8 @@ func (k *taking) flag(b *bool) {
 	*b = n != 0
 }
 
-// isName tells whether a name may be.
-func isName(name string) bool {
+// IsName tells whether a name may be: the other layers have the same names.
+func IsName(name string) bool {
 	if len(name) < 1 || len(name) > api.MaxName || !strings.Contains(firstSigns, name[:1]) {
 		return false
 	}

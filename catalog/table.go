@@ -102,7 +102,7 @@ func (x *table) fits() bool {
 
 // check tells what an entry is refused for, wherever it is to stand.
 func (x *table) check(entry api.Entry) api.Errno {
-	if !isName(entry.Name) {
+	if !IsName(entry.Name) {
 		return api.ErrCatalogName
 	}
 	if !mayBe(entry) {

@@ -96,6 +96,43 @@ func (w walk) turn(n *node, own bool, l int) (change, api.Errno) {
 	return c, api.OK
 }
 
+// fill finds what becomes of a spot by writes at all of a range that is not mapped.
+func (w walk) fill(s spot, above bool, r api.Range) (change, api.Errno) {
+	x, e := w.hanging(s)
+	if e != api.OK {
+		return nil, e
+	}
+	switch x := x.(type) {
+	case *node:
+		return w.fillNode(x, above, r)
+	case nil:
+		if s.level < api.Levels {
+			return w.fillNode(&node{spot: s}, above, r)
+		}
+		return fresh{}, api.OK
+	}
+	return nil, api.OK
+}
+
+func (w walk) fillNode(n *node, above bool, r api.Range) (change, api.Errno) {
+	own, e := w.isOwn(n.spot, above)
+	if e != api.OK {
+		return nil, e
+	}
+	c := &turned{node: n, own: own}
+	isChanged := false
+	for i, next := range n.spots(r) {
+		if c.parts[i], e = w.fill(next, own, r); e != api.OK {
+			return nil, e
+		}
+		isChanged = isChanged || c.parts[i] != nil
+	}
+	if !isChanged {
+		return nil, api.OK
+	}
+	return c, api.OK
+}
+
 // drop finds what becomes of a spot where a node hangs by a drop of a range.
 func (w walk) drop(s spot, above bool, r api.Range) (change, api.Errno) {
 	n, e := w.node(s)

@@ -6,7 +6,7 @@ import "cistern/api"
 type deed struct {
 	walk
 	taken []int  // new pool blocks that it has still to use
-	data  int    // the new data block
+	data  []int  // the new data blocks
 	lost  []spot // what loses a reference behind it
 }
 
@@ -19,10 +19,11 @@ func (w walk) assign(l int) (int, int, api.Errno) {
 	if c == nil {
 		return w.asItIs(l)
 	}
-	if e := w.check(c); e != api.OK {
+	root, data, e := w.do(c)
+	if e != api.OK {
 		return 0, 0, e
 	}
-	return w.do(c)
+	return root, data[0], api.OK
 }
 
 // asItIs gives the root, and the data block at l.
@@ -34,36 +35,45 @@ func (w walk) asItIs(l int) (int, int, api.Errno) {
 	return w.root.block, block, api.OK
 }
 
+// assignAll gives the new root, and the new data blocks.
+func (w walk) assignAll(r api.Range) (int, []int, api.Errno) {
+	c, e := w.fill(w.root, true, r)
+	if e != api.OK {
+		return 0, nil, e
+	}
+	return w.do(c)
+}
+
 // dropAll gives the new root.
 func (w walk) dropAll(r api.Range) (int, api.Errno) {
 	c, e := w.drop(w.root, true, r)
 	if e != api.OK {
 		return 0, e
 	}
-	if c == nil {
-		return w.root.block, api.OK
-	}
-	if e := w.check(c); e != api.OK {
-		return 0, e
-	}
 	root, _, e := w.do(c)
 	return root, e
 }
 
-// do does what becomes of the root. It gives the new root, and the new data block.
-func (w walk) do(c change) (int, int, api.Errno) {
+// do does what becomes of the root, unless it is refused. It gives the new root, and the new data blocks.
+func (w walk) do(c change) (int, []int, api.Errno) {
+	if c == nil {
+		return w.root.block, nil, api.OK
+	}
+	if e := w.check(c); e != api.OK {
+		return 0, nil, e
+	}
 	d := &deed{walk: w}
 	if e := d.takeAll(c.need()); e != api.OK {
-		return 0, 0, e
+		return 0, nil, e
 	}
 	root, e := d.replace(w.root, c, true)
 	if e != api.OK {
-		return 0, 0, e
+		return 0, nil, e
 	}
 	// What is let go comes last: where it is much, it makes looking for free pool blocks slow.
 	for _, s := range d.lost {
 		if e := w.letGo(s); e != api.OK {
-			return 0, 0, e
+			return 0, nil, e
 		}
 	}
 	return root, d.data, api.OK
@@ -142,8 +152,9 @@ func (d *deed) replace(s spot, c change, above bool) (int, api.Errno) {
 func (d *deed) make(c change) (int, api.Errno) {
 	switch c := c.(type) {
 	case fresh:
-		d.data = d.take()
-		return d.data, api.OK
+		block := d.take()
+		d.data = append(d.data, block)
+		return block, api.OK
 	case *turned:
 		return d.turn(c)
 	}

@@ -327,6 +327,43 @@ func (w *world) doNeedAll(i int, from int, to int) {
 	w.checkNeedAll(w.roots[i], from, to, need)
 }
 
+// doAssignAll holds it against the writes of the model, one behind the other.
+func (w *world) doAssignAll(i int, from int, to int) {
+	w.t.Helper()
+	s, root, need := w.state(), w.roots[i], 0
+	var fresh []int
+	for l := from; l < to; l++ {
+		if w.has[i].mapped(0, map[int]*leaf{})[l] == nil {
+			need += w.has[i].need(0, true, l)
+			w.has[i] = w.has[i].write(0, true, l)
+			fresh = append(fresh, l)
+		}
+	}
+	free, _ := w.p.Free(w.x)
+	before := w.counts()
+	r, blocks, e := w.m.AssignAll(w.x, root, from, to)
+	if need > free {
+		if r != 0 || len(blocks) != 0 || e != api.ErrSpaceFull || !slices.Equal(w.counts(), before) {
+			w.t.Errorf("AssignAll(t, %d, %d, %d) with %d free = %d, %v, %d; want ErrSpaceFull", root, from, to, free, r, blocks, e)
+		}
+		w.restore(s)
+		return
+	}
+	if e != api.OK || len(blocks) != len(fresh) {
+		w.t.Fatalf("AssignAll(t, %d, %d, %d) with %d free = %d, %v, %d; want %d blocks", root, from, to, free, r, blocks, e, len(fresh))
+	}
+	if n := taken(before, w.counts()); n != need {
+		w.t.Errorf("AssignAll(t, %d, %d, %d) takes %d blocks; its need is %d", root, from, to, n, need)
+	}
+	w.roots[i] = r
+	for n, l := range fresh {
+		w.checkFind(r, l, blocks[n])
+		w.tags++
+		w.put(blocks[n], noise(512, uint32(w.tags)))
+		w.has[i].mapped(0, map[int]*leaf{})[l].tag = w.tags
+	}
+}
+
 // doShare lets another have the map that one has; what that one had is released.
 func (w *world) doShare(i int, k int) {
 	w.t.Helper()
@@ -367,7 +404,12 @@ func (w *world) step(r []byte) {
 	case op < 15:
 		w.doRelease(i)
 	default:
-		w.doNeedAll(i, l, min(l+int(r[5])%80, all))
+		to := min(l+int(r[5])%80, all)
+		w.doNeedAll(i, l, to)
+		if r[4]%2 == 0 {
+			to = min(l+int(r[5])%12, all)
+		}
+		w.doAssignAll(i, l, to)
 	}
 }
 

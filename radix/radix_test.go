@@ -416,6 +416,9 @@ func (b *bench) checkRefusedOver(m *radix.Map, x *txn.Txn, root int, from int, t
 	if ps, e := m.Pairs(x, root, from, to); len(ps) != 0 || e != want {
 		b.t.Errorf("Pairs(t, %d, %d, %d) = %v, %d; want none, %d", root, from, to, ps, e, want)
 	}
+	if r, ds, e := m.AssignAll(x, root, from, to); r != 0 || len(ds) != 0 || e != want {
+		b.t.Errorf("AssignAll(t, %d, %d, %d) = %d, %v, %d; want 0, none, %d", root, from, to, r, ds, e, want)
+	}
 }
 
 // checkRefusedRoot holds it of the calls with a root alone.

@@ -25,6 +25,8 @@ func (b *bench) askAll(root int) {
 		b.m.Pairs(b.x, root, c.from, c.to)
 		b.m.Drop(b.x, root, c.from, c.to)
 		b.back(m)
+		b.m.AssignAll(b.x, root, c.from, min(c.to, c.from+100))
+		b.back(m)
 	}
 	b.m.Walk(b.x, root)
 	b.m.Share(b.x, root)
