@@ -2,6 +2,7 @@ package pool
 
 import (
 	"cistern/api"
+	"cistern/radix"
 	"cistern/txn"
 )
 
@@ -17,25 +18,11 @@ func (p *Pool) volumes(t *txn.Txn) ([]api.Volume, api.Errno) {
 		if e != api.OK {
 			return nil, e
 		}
-		told[i] = volumeOf(entry, rangesOf(pairs))
+		told[i] = volumeOf(entry, radix.Ranges(pairs))
 	}
 	return told, api.OK
 }
 
 func volumeOf(e api.Entry, mapped []api.Range) api.Volume {
 	return api.Volume{Name: e.Name, ID: e.ID, Size: e.Size, Origin: e.Origin, Kind: e.Kind, Partial: e.Partial, Mapped: mapped}
-}
-
-// rangesOf gives the logical blocks of pairs, which rise, in as few ranges as hold them.
-func rangesOf(pairs []api.Pair) []api.Range {
-	var ranges []api.Range
-	for _, pair := range pairs {
-		last := len(ranges) - 1
-		if last >= 0 && ranges[last].To == pair.Logical {
-			ranges[last].To++
-			continue
-		}
-		ranges = append(ranges, api.Range{From: pair.Logical, To: pair.Logical + 1})
-	}
-	return ranges
 }

@@ -5,6 +5,7 @@ import (
 	"testing"
 
 	"cistern/api"
+	"cistern/radix"
 )
 
 func TestP7_10Pairs(t *testing.T) {
@@ -209,6 +210,35 @@ func TestR4WhatIsHandedOutIsNew(t *testing.T) {
 		clear(ts[:cap(ts)])
 		if len(again) != 2 || again[0].Logical != 5 || again[1].Logical != 70 || len(over) != 6 || over[0].Block != r {
 			t.Errorf("what was handed out is changed by writing into another answer: %v, %v", again, over)
+		}
+	}
+}
+
+// Ranges tell the same logical blocks as the pairs, rising, no two touching.
+func TestP7_10RangesOfPairs(t *testing.T) {
+	for _, c := range []struct {
+		mapped []int
+		want   []api.Range
+	}{
+		{nil, nil},
+		{[]int{0}, []api.Range{{From: 0, To: 1}}},
+		{[]int{0, 1, 2}, []api.Range{{From: 0, To: 3}}},
+		{[]int{0, 2, 4}, []api.Range{{From: 0, To: 1}, {From: 2, To: 3}, {From: 4, To: 5}}},
+		{[]int{62, 63, 64, 65, 67}, []api.Range{{From: 62, To: 66}, {From: 67, To: 68}}},
+		{[]int{5, 4095, 4096, 262143}, []api.Range{{From: 5, To: 6}, {From: 4095, To: 4097}, {From: 262143, To: 262144}}},
+	} {
+		b := made(t, 400)
+		r, _ := b.assign(0, c.mapped...)
+		pairs, e := b.m.Pairs(b.x, r, 0, all)
+		if e != api.OK {
+			t.Fatalf("Pairs = %d", e)
+		}
+		before := slices.Clone(pairs)
+		if got := radix.Ranges(pairs); !slices.Equal(got, c.want) {
+			t.Errorf("Ranges of %v = %v; want %v", c.mapped, got, c.want)
+		}
+		if !slices.Equal(pairs, before) {
+			t.Errorf("Ranges has changed what was handed in")
 		}
 	}
 }
