@@ -116,19 +116,19 @@ func (w walk) pairs(s spot, r api.Range, told []api.Pair) ([]api.Pair, api.Errno
 }
 
 // tiles adds what hangs at a spot, and all that hangs on it.
-func (w walk) tiles(s spot, above bool, told []api.Tile) ([]api.Tile, api.Errno) {
+func (w walk) tiles(s spot, above bool, counts func(b int) (int, api.Errno), told []api.Tile) ([]api.Tile, api.Errno) {
 	x, e := w.hanging(s)
 	if e != api.OK || x == nil {
 		return told, e
 	}
-	refs, e := w.Count(w.t, s.block)
+	refs, e := counts(s.block)
 	if e != api.OK {
 		return nil, e
 	}
 	own := above && refs == 1
 	told = append(told, api.Tile{Level: s.level, Block: s.block, Refs: refs, Own: own})
 	for _, next := range x.spots(everything()) {
-		if told, e = w.tiles(next, own, told); e != api.OK {
+		if told, e = w.tiles(next, own, counts, told); e != api.OK {
 			return nil, e
 		}
 	}

@@ -132,6 +132,14 @@ func TestP6_4NotAllCountsAreRead(t *testing.T) {
 			t.Errorf("%s reads %d blocks of a table of %d", what, n, all)
 		}
 	}
+	before := reads()
+	counts, _ := p.Counts(x)
+	for i := range api.MaxCapacity {
+		counts(i*77777%api.MaxCapacity + 1)
+	}
+	if n := reads() - before; n > all {
+		t.Errorf("by Counts all counts are told with %d blocks read of a table of %d", n, all)
+	}
 }
 
 func TestP6TwoTablesInTurns(t *testing.T) {

@@ -248,6 +248,18 @@ func checkCount(t *testing.T, p *space.Space, x *txn.Txn, b int, want int, wantE
 	if got, e := p.Count(x, b); got != want || e != wantErr {
 		t.Errorf("Count(t, %d) = %d, %d; want %d, %d", b, got, e, want, wantErr)
 	}
+	if got, e := countOf(p, x, b); got != want || e != wantErr {
+		t.Errorf("by Counts(t) of %d = %d, %d; want %d, %d", b, got, e, want, wantErr)
+	}
+}
+
+// countOf asks for the references of a block by Counts.
+func countOf(p *space.Space, x *txn.Txn, b int) (int, api.Errno) {
+	counts, e := p.Counts(x)
+	if e != api.OK {
+		return 0, e
+	}
+	return counts(b)
 }
 
 func checkFree(t *testing.T, p *space.Space, x *txn.Txn, want int) {
@@ -283,6 +295,9 @@ func checkRefused(t *testing.T, p *space.Space, x *txn.Txn, want api.Errno) {
 	checkAlloc(t, p, x, 0, want)
 	for _, n := range []int{math.MinInt, -1, 0, 1, 4, 5, math.MaxInt} {
 		checkLowest(t, p, x, n, nil, want)
+	}
+	if counts, e := p.Counts(x); counts != nil || e != want {
+		t.Errorf("Counts(t) = a call: %v, %d; want none, %d", counts != nil, e, want)
 	}
 	if n, e := p.Free(x); n != 0 || e != want {
 		t.Errorf("Free(t) = %d, %d; want 0, %d", n, e, want)
@@ -851,6 +866,33 @@ func TestP6_7WhichBlocksThereAre(t *testing.T) {
 		checkCount(t, p, x, 10, 0, api.ErrSpaceBlock)
 		abort(t, x)
 	}
+}
+
+// One call of Counts tells what Count does of all blocks, in any order, and with blocks among them that are none.
+func TestP6_7CountsTellsWhatCountDoes(t *testing.T) {
+	b := made(t, 200)
+	p := b.space(home, 2000, 1900)
+	b.do(func(x *txn.Txn) { checkAllocs(t, p, x, 1, 1500) })
+	x := b.begin()
+	for n := 1; n <= 1500; n += 7 {
+		for range n % 5 {
+			checkRef(t, p, x, n, api.OK)
+		}
+	}
+	checkUnref(t, p, x, 1000, 0, api.OK)
+	counts, e := p.Counts(x)
+	if e != api.OK {
+		t.Fatalf("Counts(t) = %d", e)
+	}
+	for i := range 6000 {
+		n := i*1237%2003 - 1
+		got, e := counts(n)
+		want, wantErr := p.Count(x, n)
+		if got != want || e != wantErr {
+			t.Fatalf("by Counts(t) of %d = %d, %d; want %d, %d", n, got, e, want, wantErr)
+		}
+	}
+	abort(t, x)
 }
 
 // Calls that tell something write nothing, in the transaction neither.

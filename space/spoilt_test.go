@@ -17,13 +17,14 @@ func askAll(t *testing.T, p *space.Space, x *txn.Txn, room int) {
 	t.Helper()
 	for _, b := range []int{-1, 0, 1, 2, room / 2, room, room + 1} {
 		for what, call := range map[string]func() (int, api.Errno){
-			"Count": func() (int, api.Errno) { return p.Count(x, b) },
-			"Unref": func() (int, api.Errno) { return p.Unref(x, b) },
-			"Ref":   func() (int, api.Errno) { return 0, p.Ref(x, b) },
-			"Alloc": func() (int, api.Errno) { return p.Alloc(x) },
-			"Free":  func() (int, api.Errno) { return p.Free(x) },
-			"Size":  func() (int, api.Errno) { return p.Size(x) },
-			"Grow":  func() (int, api.Errno) { return 0, p.Grow(x, b) },
+			"Count":  func() (int, api.Errno) { return p.Count(x, b) },
+			"Counts": func() (int, api.Errno) { return countOf(p, x, b) },
+			"Unref":  func() (int, api.Errno) { return p.Unref(x, b) },
+			"Ref":    func() (int, api.Errno) { return 0, p.Ref(x, b) },
+			"Alloc":  func() (int, api.Errno) { return p.Alloc(x) },
+			"Free":   func() (int, api.Errno) { return p.Free(x) },
+			"Size":   func() (int, api.Errno) { return p.Size(x) },
+			"Grow":   func() (int, api.Errno) { return 0, p.Grow(x, b) },
 		} {
 			before := seenBlocks(t, x, spoiltTotal)
 			n, e := call()
