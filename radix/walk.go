@@ -115,24 +115,36 @@ func (w walk) pairs(s spot, r api.Range, told []api.Pair) ([]api.Pair, api.Errno
 	return told, api.OK
 }
 
-// tiles adds what hangs at a spot, and all that hangs on it.
-func (w walk) tiles(s spot, above bool, counts func(b int) (int, api.Errno), told []api.Tile) ([]api.Tile, api.Errno) {
+// telling is a walk that tells tiles.
+type telling struct {
+	walk
+	counts func(b int) (int, api.Errno)
+	isMet  func(node int) bool
+	told   []api.Tile
+}
+
+// tell tells what hangs at a spot, and all that hangs on it, but for what hangs on a node that was met.
+func (w *telling) tell(s spot, above bool) api.Errno {
+	// A node that was met is read all the same: at a spot of another level it can be none.
 	x, e := w.hanging(s)
 	if e != api.OK || x == nil {
-		return told, e
+		return e
 	}
-	refs, e := counts(s.block)
+	refs, e := w.counts(s.block)
 	if e != api.OK {
-		return nil, e
+		return e
 	}
 	own := above && refs == 1
-	told = append(told, api.Tile{Level: s.level, Block: s.block, Refs: refs, Own: own})
+	w.told = append(w.told, api.Tile{Level: s.level, Block: s.block, Refs: refs, Own: own})
+	if s.level < api.Levels && w.isMet(s.block) {
+		return api.OK
+	}
 	for _, next := range x.spots(everything()) {
-		if told, e = w.tiles(next, own, counts, told); e != api.OK {
-			return nil, e
+		if e := w.tell(next, own); e != api.OK {
+			return e
 		}
 	}
-	return told, api.OK
+	return api.OK
 }
 
 // needAll tells how many new pool blocks it takes to map all of a range that is found by a spot.

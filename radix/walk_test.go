@@ -104,6 +104,109 @@ func TestP7_11Walk(t *testing.T) {
 	}
 }
 
+// walkNew tells what a walk tells where some nodes were met.
+func (b *bench) walkNew(root int, met ...int) []api.Tile {
+	b.t.Helper()
+	tiles, e := b.m.WalkNew(b.x, root, func(node int) bool { return slices.Contains(met, node) })
+	if e != api.OK {
+		b.t.Fatalf("WalkNew(t, %d) = %d", root, e)
+	}
+	return tiles
+}
+
+// What hangs on a node that was met is not told, and the node itself is; a data block is never asked of.
+func TestP7_11WalkNew(t *testing.T) {
+	b := made(t, 100)
+	r, data := b.assign(0, 0, 1, 64, 4096)
+	whole := b.walk(r)
+	if len(whole) != 10 || whole[9].Block != data {
+		t.Fatalf("Walk(t, r) = %v", whole)
+	}
+	// In the order of a walk: the root, the nodes down to 0, 0 and 1; the node of 64, and 64; the nodes down to 4096, and 4096.
+	at := func(places ...int) []api.Tile {
+		var out []api.Tile
+		for _, i := range places {
+			out = append(out, whole[i])
+		}
+		return out
+	}
+	for _, c := range []struct {
+		met  []int
+		told []int
+	}{
+		{nil, []int{0, 1, 2, 3, 4, 5, 6, 7, 8, 9}},
+		{[]int{0}, []int{0}},
+		{[]int{1}, []int{0, 1, 7, 8, 9}},
+		{[]int{2}, []int{0, 1, 2, 5, 6, 7, 8, 9}},
+		{[]int{5, 8}, []int{0, 1, 2, 3, 4, 5, 7, 8}},
+		{[]int{1, 2, 5, 7}, []int{0, 1, 7}},
+		{[]int{3, 4, 6, 9}, []int{0, 1, 2, 3, 4, 5, 6, 7, 8, 9}},
+	} {
+		var met []int
+		for _, i := range c.met {
+			met = append(met, whole[i].Block)
+		}
+		if got, want := b.walkNew(r, met...), at(c.told...); !slices.Equal(got, want) {
+			t.Errorf("WalkNew(t, r), where %v were met, = %v; want %v", c.met, got, want)
+		}
+	}
+	if got := b.walkNew(0); len(got) != 0 {
+		t.Errorf("WalkNew(t, 0) = %v; want none", got)
+	}
+}
+
+// Of two maps that share nearly all, what was met with the one is not gone through again: few blocks are read.
+func TestP7_11WalkNewReadsFewBlocks(t *testing.T) {
+	b := made(t, 5000)
+	root := 0
+	for l := 0; l < 4096; l += 3 {
+		root, _ = b.assign(root, l)
+	}
+	b.share(root)
+	copied, _ := b.assign(root, 5)
+	b.commit()
+	b.checkpoint()
+	var met []int
+	for _, tile := range b.walk(root) {
+		met = append(met, tile.Block)
+	}
+	before := b.reads()
+	if got := b.walkNew(copied, met...); len(got) < 66 || len(got) > 120 {
+		t.Errorf("WalkNew of a map that shares all but a way tells %d", len(got))
+	}
+	if n := b.reads() - before; n > 120 {
+		t.Errorf("WalkNew of a map that shares all but a way reads %d blocks", n)
+	}
+}
+
+// A node that was met is none at another level, and one that can be none is told where nothing above it was met.
+func TestP7_11WalkNewOverWhatIsNoNode(t *testing.T) {
+	b := made(t, 100)
+	r, _ := b.assign(0, 0, 4096)
+	way := b.path(r, 4096)
+	refuse := func(root int, want api.Errno, met ...int) {
+		t.Helper()
+		tiles, e := b.m.WalkNew(b.x, root, func(node int) bool { return slices.Contains(met, node) })
+		if len(tiles) != 0 || e != want {
+			t.Errorf("WalkNew(t, %d) = %v, %d; want none, %d", root, tiles, e, want)
+		}
+	}
+	refuse(way[1], api.ErrRadixNode, way[1])
+	refuse(way[3], api.ErrRadixNode, way[3])
+	refuse(-1, api.ErrRadixNode)
+	refuse(101, api.ErrRadixNode)
+	b.put(way[2], full(1))
+	refuse(r, api.ErrRadixNode)
+	refuse(r, api.ErrRadixNode, way[2])
+	if got := b.walkNew(r, way[1]); len(got) != 5 {
+		t.Errorf("WalkNew past what can be no node = %v", got)
+	}
+	b.darken()
+	refuse(r, api.ErrDiskOff)
+	b.m = nil
+	refuse(r, api.ErrNil)
+}
+
 // A map is walked by its nodes: of a map of few nodes few blocks are read, whatever the range is.
 func TestP7_10FewBlocksAreRead(t *testing.T) {
 	b := made(t, 2000)
