@@ -13,9 +13,10 @@ type deed struct {
 	*pool.Pool
 	*txn.Txn
 	api.Op
-	volumes []api.Entry
-	volume  api.Entry // the one that Name names; its ID is 0, if there is none
-	second  api.Entry // the one that Other names, likewise
+	volumes    []api.Entry
+	volume     api.Entry // the one that Name names; its ID is 0, if there is none
+	second     api.Entry // the one that Other names, likewise
+	isBuilding bool      // of a volume that is made by several operations
 }
 
 // look finds the volumes that an operation names.
@@ -80,7 +81,9 @@ func (d deed) rangeIsShort() api.Errno {
 	return unless(d.To-d.From <= api.MaxFill, api.ErrActRange)
 }
 
-func (d deed) nameIsWhole() api.Errno { return unless(!d.volume.Partial, api.ErrActPartial) }
+func (d deed) nameIsWhole() api.Errno {
+	return unless(!d.volume.Partial || d.isBuilding, api.ErrActPartial)
+}
 
 func (d deed) otherIsWhole() api.Errno { return unless(!d.second.Partial, api.ErrActPartial) }
 

@@ -40,7 +40,7 @@ func (d deed) add(v api.Entry) api.Errno {
 	if e != api.OK {
 		return e
 	}
-	v.Name, v.ID = d.Name, id
+	v.Name, v.ID, v.Partial = d.Name, id, d.isBuilding
 	return d.Catalog().Put(d.Txn, v)
 }
 

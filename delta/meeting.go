@@ -22,14 +22,16 @@ func (same) isMeeting()  {}
 func (apart) isMeeting() {}
 func (alone) isMeeting() {}
 
-// sideBySide goes through the logical blocks that at least one of two maps has, rising. The maps' pairs rise.
-func sideBySide(a []api.Pair, b []api.Pair) iter.Seq2[int, meeting] {
-	return func(yield func(int, meeting) bool) {
+// Both is the pool blocks that two maps have at a logical block; 0: none.
+type Both struct{ A, B int }
+
+// SideBySide goes through the logical blocks that at least one of two maps has, rising. The maps' pairs rise.
+func SideBySide(a []api.Pair, b []api.Pair) iter.Seq2[int, Both] {
+	return func(yield func(int, Both) bool) {
 		a, b := a, b
 		for len(a) > 0 || len(b) > 0 {
 			l := next(a, b)
-			x, y := at(&a, l), at(&b, l)
-			if !yield(l, meet(x, y)) {
+			if !yield(l, Both{A: at(&a, l), B: at(&b, l)}) {
 				return
 			}
 		}
@@ -57,15 +59,15 @@ func at(pairs *[]api.Pair, l int) int {
 	return block
 }
 
-// meet tells what two pool blocks are to each other; 0 is none.
-func meet(a int, b int) meeting {
+// meet tells what the two are to each other.
+func (x Both) meet() meeting {
 	switch {
-	case a == b:
+	case x.A == x.B:
 		return same{}
-	case b == 0:
-		return alone{a}
-	case a == 0:
-		return alone{b}
+	case x.B == 0:
+		return alone{x.A}
+	case x.A == 0:
+		return alone{x.B}
 	}
-	return apart{a, b}
+	return apart{x.A, x.B}
 }

@@ -65,6 +65,19 @@ func Unpack(data []byte, widths ...int) ([]int, api.Errno) {
 // Sum gives the CRC-32C of data (P1.3).
 func Sum(data []byte) uint32 { return sumOf(data) }
 
+// SumOn goes on with a sum: it gives the sum of all bytes, if those ahead of data have this one. (That of no bytes is 0.) So what
+// is written bit by bit is summed as it is written.
+func SumOn(sum uint32, data []byte) uint32 {
+	steps := sumSteps()
+	sum = ^sum
+	for _, b := range data {
+		sum ^= uint32(b)
+		sum = sum>>4 ^ steps[sum&15]
+		sum = sum>>4 ^ steps[sum&15]
+	}
+	return ^sum
+}
+
 // Stamp makes a block of a body (P1.4).
 func Stamp(kind int, seq int, body []byte) ([]byte, api.Errno) {
 	if kind < 1 || kind > maxKind {
@@ -145,16 +158,11 @@ func stampSum(block []byte) uint32 {
 
 // sumOf sums the parts as if they stood behind one another, so that no block is copied to be summed.
 func sumOf(parts ...[]byte) uint32 {
-	steps := sumSteps()
-	sum := ^uint32(0)
+	sum := uint32(0)
 	for _, part := range parts {
-		for _, b := range part {
-			sum ^= uint32(b)
-			sum = sum>>4 ^ steps[sum&15]
-			sum = sum>>4 ^ steps[sum&15]
-		}
+		sum = SumOn(sum, part)
 	}
-	return ^sum
+	return sum
 }
 
 // sumSteps gives what four of the sum's eight steps make of each half byte.

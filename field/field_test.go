@@ -222,6 +222,24 @@ func TestP1_3SumFollowsTheRule(t *testing.T) {
 	}
 }
 
+// A sum that goes on comes to the sum of all, wherever the bytes are cut.
+func TestP1_3ASumThatGoesOn(t *testing.T) {
+	data := noise(1100, 3)
+	want := field.Sum(data)
+	for cut := range len(data) + 1 {
+		if got := field.SumOn(field.SumOn(0, data[:cut]), data[cut:]); got != want {
+			t.Errorf("the sum of %d bytes, gone on with, = %08x, want %08x", cut, got, want)
+		}
+	}
+	byByte := uint32(0)
+	for i := range data {
+		byByte = field.SumOn(byByte, data[i:i+1])
+		if got := field.SumOn(byByte, nil); got != field.Sum(data[:i+1]) {
+			t.Errorf("byte by byte the sum of %d bytes = %08x", i+1, got)
+		}
+	}
+}
+
 func TestP1_4StampLaysTheBlock(t *testing.T) {
 	block := mustStamp(t, 7, 258, []byte{1, 2, 3})
 	if head := []byte{7, 3, 0, 2, 1, 0, 0, 0, 0, 0, 0}; !bytes.Equal(block[:11], head) {
