@@ -129,7 +129,7 @@ func TestP21_1WhatIsDone(t *testing.T) {
 	}
 }
 
-// The new volume of a Partial pool is whole, whatever stands beside it.
+// A new volume is whole, whatever stands beside it.
 func TestP21_1NewVolumesAreNotPartial(t *testing.T) {
 	for _, o := range []api.Op{create("n", 3), snap("n", "t"), clone("n", "t"), snap("n", "a"), clone("n", "e")} {
 		v, e := dry.Do(crowd(), o)

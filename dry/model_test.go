@@ -198,7 +198,7 @@ func checkAsModel(t *testing.T, v api.View, o api.Op) (int, api.Errno, api.View)
 	return number, want, got
 }
 
-// names draws from few names, of which some may not be.
+// name draws one of few names, of which some may not be.
 func (d *drawing) name() string {
 	if d.below(40) == 0 {
 		return d.text("", "A", "-a", "a b", "0", "aé", strings.Repeat("a", 32))
