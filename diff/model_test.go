@@ -11,6 +11,7 @@ import (
 	"cistern/diff"
 	"cistern/dry"
 	"cistern/goal"
+	"cistern/order"
 )
 
 // model follows the chapter word by word, by names and over sets of blocks.
@@ -177,55 +178,18 @@ func checkAsModel(t *testing.T, cs []api.Clause, v api.View) {
 	}
 }
 
-// groupOf gives the number of the group in whose turn an operation is done.
-func groupOf(o api.Op) int {
-	return map[int]int{api.OpRename: 1, api.OpSnap: 2, api.OpDelete: 3, api.OpCreate: 4, api.OpClone: 4, api.OpResize: 5, api.OpFill: 6}[o.Kind]
-}
-
-// done does operations over a view, group by group, in a group always the first that is not refused; circles of renames are
-// broken by one more name. What is left when none can be done is answered too.
-func done(v api.View, ops []api.Op) (api.View, []api.Op, api.Errno) {
-	ops = slices.Clone(ops)
-	slices.SortStableFunc(ops, func(a api.Op, b api.Op) int { return cmp.Compare(groupOf(a), groupOf(b)) })
-	for spare := 1; len(ops) > 0; {
-		first := api.OK
-		at := -1
-		for i := 0; i < len(ops) && groupOf(ops[i]) == groupOf(ops[0]) && at < 0; i++ {
-			behind, e := dry.Do(v, ops[i])
-			if i == 0 {
-				first = e
-			}
-			if e == api.OK {
-				v, at = behind, i
-			}
-		}
-		switch {
-		case at >= 0:
-			ops = slices.Delete(ops, at, at+1)
-		case ops[0].Kind == api.OpRename && spare <= len(ops)+8:
-			aside := fmt.Sprintf("~~%d", spare)
-			spare++
-			if behind, e := dry.Do(v, api.Op{Kind: api.OpRename, Name: ops[0].Name, Other: aside}); e == api.OK {
-				v = behind
-				ops[0].Name = aside
-			}
-		default:
-			return v, ops, first
-		}
-	}
-	return v, nil, api.OK
-}
-
-// checkDone holds that what is done comes to the goal (P23.3), and that there is nothing to do then (P23.4). It tells whether the
-// catalog was full, and whether the second was asked.
+// checkDone holds that what is done, in the order of layer 24, comes to the goal (P23.3), and that there is nothing to do then
+// (P23.4). It tells whether the catalog was full, and whether the second was asked.
 func checkDone(t *testing.T, cs []api.Clause, v api.View) (isFull bool, isAsked bool) {
 	t.Helper()
 	g := goalOf(t, cs, v)
 	ops, e := diff.Steps(cs, v, g)
-	behind, left, err := done(v, ops)
+	ordered, noOrder := order.Steps(v, ops)
+	behind, at, err := dry.All(v, ordered)
 	isFull = err == api.ErrCatalogFull
-	if e != api.OK || !isFull && (err != api.OK || !dry.Same(behind, g)) {
-		t.Errorf("P23.3: %s over %s: %s, %d\ncome to %s (%d, left are %v);\nwant %s", toldPlan(cs), told(v), toldSteps(t, ops), e, told(behind), err, left, told(g))
+	if e != api.OK || noOrder != api.OK || !isFull && (err != api.OK || !dry.Same(behind, g)) {
+		t.Errorf("P23.3: %s over %s: %s, %d, ordered %s, %d\ncome to %s (%d, %d);\nwant %s",
+			toldPlan(cs), told(v), toldSteps(t, ops), e, toldSteps(t, ordered), noOrder, told(behind), at, err, told(g))
 	}
 	hasFresh := slices.ContainsFunc(cs, func(c api.Clause) bool { return c.Kind == api.ClauseSnap })
 	if dry.Same(v, g) && !hasFresh && len(ops) > 0 {
