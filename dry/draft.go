@@ -24,20 +24,41 @@ func draftOf(v api.View) *draft {
 	return &draft{View: v}
 }
 
-// take does an operation, unless something is against it.
-func (d *draft) take(o api.Op, rules []rule) api.Errno {
+// follow does operations, one behind the other, and calls ahead when each has its turn. The first that something is against ends
+// it: its number is told, and what that is.
+func (d *draft) follow(ops []api.Op, ahead func()) (int, api.Errno) {
+	rules := rulesOfKinds()
+	for i, o := range ops {
+		if e := d.ask(o, rules); e != api.OK {
+			return i, e
+		}
+		ahead()
+		rules[o.Kind].do(d)
+	}
+	return 0, api.OK
+}
+
+// ask gives an operation its turn, and tells what is against it.
+func (d *draft) ask(o api.Op, rules []rule) api.Errno {
 	if e := formOf(o); e != api.OK {
 		return e
 	}
-	d.Op, d.name, d.other = o, d.placeOf(o.Name), d.placeOf(o.Other)
-	r := rules[o.Kind]
-	for _, look := range r.looks {
+	d.Op, d.name, d.other = o, d.numberOf(o.Name), d.numberOf(o.Other)
+	for _, look := range rules[o.Kind].looks {
 		if e := look(d); e != api.OK {
 			return e
 		}
 	}
-	r.do(d)
 	return api.OK
+}
+
+// place tells what the operation whose turn it is meets.
+func (d *draft) place() Place {
+	if d.name < 0 {
+		return Place{}
+	}
+	v, r := d.volume(), api.Range{From: d.From, To: d.To}
+	return Place{Size: v.Size, Bare: isBare(v.Mapped, r), Full: isFull(v.Mapped, r)}
 }
 
 // formOf tells what is against an operation's form. A size or a range that no pool takes is left to its rule: what the view has
@@ -50,7 +71,7 @@ func formOf(o api.Op) api.Errno {
 	return e
 }
 
-func (d *draft) placeOf(name string) int {
+func (d *draft) numberOf(name string) int {
 	return slices.IndexFunc(d.Volumes, func(v api.Volume) bool { return v.Name == name })
 }
 

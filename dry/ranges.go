@@ -43,6 +43,19 @@ func withoutEmpty(ranges ...api.Range) []api.Range {
 
 func isEmpty(r api.Range) bool { return r.From >= r.To }
 
+// isBare tells whether a list has no block of a range.
+func isBare(list []api.Range, r api.Range) bool {
+	i, j := met(list, r)
+	return isEmpty(r) || i == j
+}
+
+// isFull tells whether a list that is in its one form has all blocks of a range: they are in one of its ranges then, since no two
+// touch.
+func isFull(list []api.Range, r api.Range) bool {
+	i, j := met(list, r)
+	return isEmpty(r) || i < j && list[i].From <= r.From && list[i].To >= r.To
+}
+
 // met gives the part of a list, from a place up to and without another, that has a block in common with a range. The second
 // place is looked for behind the first one, so that a list that does not rise has no part that ends ahead of its beginning.
 func met(list []api.Range, r api.Range) (int, int) {
